@@ -1,0 +1,142 @@
+package tree
+
+import (
+	"cmp"
+	"slices"
+
+	"cadastre/api"
+	"cadastre/node"
+	"cadastre/pages"
+)
+
+// A tree's pages are nodes (11), here called knots. A leaf's cells are keys with their bytes, a fork's are keys with the pages
+// of knots: below a cell lie the keys from its own on, up to the next cell's. A fork's first key is that of the cell above it,
+// the root's the least int64. All leaves lie equally deep; no knot but the root is thin, and no fork has fewer than two cells.
+const (
+	kindLeaf = 1 + iota
+	kindFork
+	kindRest // a piece of a long record
+)
+
+// Parts of a cell, all numbers with the highest byte first.
+const (
+	keySize    = 8
+	lengthSize = 2 // behind a leaf's key: how many bytes it holds
+	placeSize  = 2 // a page's number: behind a fork's key, and behind the length of a long record
+	headSize   = keySize + lengthSize
+)
+
+// short is how many bytes a leaf's cell holds itself at most: with them it takes a quarter of a page, so that what is too much
+// for a page can be cut in two that are not thin.
+const short = 113
+
+// deepest is more forks than a way down has: with as many, each of them twofold, there would be more than MaxPages, 2^12, leaves.
+const deepest = 13
+
+// knot is a leaf or a fork.
+type knot struct {
+	at    int // its page
+	kind  int
+	cells [][]byte // their keys rise
+}
+
+// load tells the knot on page at; ErrForm, if none lies there.
+func load(g *pages.Pages, at int) (knot, api.Errno) {
+	p, e := g.Read(at)
+	if e != api.OK {
+		return knot{}, e
+	}
+	kind, next, cells, e := node.Decode(p)
+	if e != api.OK {
+		return knot{}, e
+	}
+	x := knot{at, kind, cells}
+	if next != 0 || !x.formed() || !x.rises() {
+		return knot{}, api.ErrForm
+	}
+	return x, api.OK
+}
+
+// formed asks whether the cells are those of a knot of its kind.
+func (x knot) formed() bool {
+	switch x.kind {
+	case kindLeaf:
+		return !slices.ContainsFunc(x.cells, func(c []byte) bool { return !isRecord(c) })
+	case kindFork:
+		return len(x.cells) > 1 && !slices.ContainsFunc(x.cells, func(c []byte) bool { return len(c) != keySize+placeSize })
+	}
+	return false
+}
+
+func (x knot) rises() bool {
+	for i := 1; i < len(x.cells); i++ {
+		if x.key(i-1) >= x.key(i) {
+			return false
+		}
+	}
+	return true
+}
+
+func (x knot) key(i int) int64 { return keyOf(x.cells[i]) }
+
+// find tells where the key stands, or would, and whether it is there.
+func (x knot) find(key int64) (int, bool) {
+	return slices.BinarySearchFunc(x.cells, key, func(c []byte, k int64) int { return cmp.Compare(keyOf(c), k) })
+}
+
+// way tells which of a fork's cells the key lies below.
+func (x knot) way(key int64) int {
+	i, found := x.find(key)
+	if !found && i > 0 {
+		i--
+	}
+	return i
+}
+
+// child tells the page below a fork's cell.
+func (x knot) child(i int) int { return int(number(x.cells[i][keySize:])) }
+
+// thin asks whether cells take less than a quarter of a page.
+func thin(cells [][]byte) bool { return 4*cost(cells) < node.Room(nil) }
+
+// cost tells how many bytes of a page the cells take.
+func cost(cells [][]byte) int { return node.Room(nil) - node.Room(cells) }
+
+// cut tells the cells in one part, or, if these do not fit on a page, in two that are about as long.
+func cut(cells [][]byte) [][][]byte {
+	if node.Room(cells) >= 0 {
+		return [][][]byte{cells}
+	}
+	whole, left, i := cost(cells), 0, 0
+	for 2*left < whole {
+		left += cost(cells[i : i+1])
+		i++
+	}
+	return [][][]byte{cells[:i], cells[i:]}
+}
+
+func keyOf(cell []byte) int64 { return int64(number(cell[:keySize])) }
+
+// forkCell tells a fork's cell.
+func forkCell(key int64, at int) []byte {
+	return slices.Concat(digits(uint64(key), keySize), digits(uint64(at), placeSize))
+}
+
+// number tells the number whose bytes b are.
+func number(b []byte) uint64 {
+	var n uint64
+	for _, x := range b {
+		n = n<<8 | uint64(x)
+	}
+	return n
+}
+
+// digits tells n's lowest bytes, so many of them.
+func digits(n uint64, size int) []byte {
+	b := make([]byte, size)
+	for i := size - 1; i >= 0; i-- {
+		b[i] = byte(n)
+		n >>= 8
+	}
+	return b
+}
