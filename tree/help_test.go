@@ -8,10 +8,23 @@ import (
 
 	"cadastre/api"
 	"cadastre/disk"
+	"cadastre/draft"
 	"cadastre/locks"
 	"cadastre/pager"
 	"cadastre/pages"
 )
+
+// How many bytes lie, by package draft.
+const (
+	short    = draft.Short
+	piece    = draft.Piece
+	kindRest = draft.KindPiece
+)
+
+// recordCell tells a leaf's cell: tail is the bytes themselves, or the page of their first piece.
+func recordCell(key int64, length int, tail []byte) []byte {
+	return slices.Concat(draft.Digits(uint64(key), keySize), draft.Digits(uint64(length), 2), tail)
+}
 
 func newDisk(t *testing.T, files []api.File, troubles ...api.Trouble) *disk.Disk {
 	t.Helper()

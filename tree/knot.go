@@ -5,6 +5,7 @@ import (
 	"slices"
 
 	"cadastre/api"
+	"cadastre/draft"
 	"cadastre/node"
 	"cadastre/pages"
 )
@@ -15,20 +16,12 @@ import (
 const (
 	kindLeaf = 1 + iota
 	kindFork
-	kindRest // a piece of a long record
 )
 
-// Parts of a cell, all numbers with the highest byte first.
-const (
-	keySize    = 8
-	lengthSize = 2 // behind a leaf's key: how many bytes it holds
-	placeSize  = 2 // a page's number: behind a fork's key, and behind the length of a long record
-	headSize   = keySize + lengthSize
-)
-
-// short is how many bytes a leaf's cell holds itself at most: with them it takes a quarter of a page, so that what is too much
-// for a page can be cut in two that are not thin.
-const short = 113
+// keySize is how many bytes a cell's key has, the highest first. Behind it stands, in a leaf, the cell that holds its bytes, in
+// a fork a page's number. A leaf's cell takes a quarter of a page at most, so that what is too much for a page can be cut in two
+// that are not thin.
+const keySize = 8
 
 // deepest is more forks than a way down has: with as many, each of them twofold, there would be more than MaxPages, 2^12, leaves.
 const deepest = 13
@@ -42,11 +35,7 @@ type knot struct {
 
 // load tells the knot on page at; ErrForm, if none lies there.
 func load(g *pages.Pages, at int) (knot, api.Errno) {
-	p, e := g.Read(at)
-	if e != api.OK {
-		return knot{}, e
-	}
-	kind, next, cells, e := node.Decode(p)
+	kind, next, cells, e := draft.Load(g, at)
 	if e != api.OK {
 		return knot{}, e
 	}
@@ -63,7 +52,7 @@ func (x knot) formed() bool {
 	case kindLeaf:
 		return !slices.ContainsFunc(x.cells, func(c []byte) bool { return !isRecord(c) })
 	case kindFork:
-		return len(x.cells) > 1 && !slices.ContainsFunc(x.cells, func(c []byte) bool { return len(c) != keySize+placeSize })
+		return len(x.cells) > 1 && !slices.ContainsFunc(x.cells, func(c []byte) bool { return len(c) != keySize+draft.PlaceSize })
 	}
 	return false
 }
@@ -94,49 +83,31 @@ func (x knot) way(key int64) int {
 }
 
 // child tells the page below a fork's cell.
-func (x knot) child(i int) int { return int(number(x.cells[i][keySize:])) }
+func (x knot) child(i int) int { return int(draft.Number(x.cells[i][keySize:])) }
 
 // thin asks whether cells take less than a quarter of a page.
-func thin(cells [][]byte) bool { return 4*cost(cells) < node.Room(nil) }
-
-// cost tells how many bytes of a page the cells take.
-func cost(cells [][]byte) int { return node.Room(nil) - node.Room(cells) }
+func thin(cells [][]byte) bool { return 4*draft.Cost(cells) < node.Room(nil) }
 
 // cut tells the cells in one part, or, if these do not fit on a page, in two that are about as long.
 func cut(cells [][]byte) [][][]byte {
 	if node.Room(cells) >= 0 {
 		return [][][]byte{cells}
 	}
-	whole, left, i := cost(cells), 0, 0
-	for 2*left < whole {
-		left += cost(cells[i : i+1])
-		i++
-	}
+	i := draft.Half(cells)
 	return [][][]byte{cells[:i], cells[i:]}
 }
 
-func keyOf(cell []byte) int64 { return int64(number(cell[:keySize])) }
+func keyOf(cell []byte) int64 { return int64(draft.Number(cell[:keySize])) }
+
+// isRecord asks whether c is a leaf's cell.
+func isRecord(c []byte) bool { return len(c) >= keySize && draft.IsCell(c[keySize:]) }
+
+// record tells the bytes of a leaf's cell c, and the pages on which they lie, if they are many.
+func record(g *pages.Pages, c []byte) (at []int, data []byte, e api.Errno) {
+	return draft.Read(g, c[keySize:])
+}
 
 // forkCell tells a fork's cell.
 func forkCell(key int64, at int) []byte {
-	return slices.Concat(digits(uint64(key), keySize), digits(uint64(at), placeSize))
-}
-
-// number tells the number whose bytes b are.
-func number(b []byte) uint64 {
-	var n uint64
-	for _, x := range b {
-		n = n<<8 | uint64(x)
-	}
-	return n
-}
-
-// digits tells n's lowest bytes, so many of them.
-func digits(n uint64, size int) []byte {
-	b := make([]byte, size)
-	for i := size - 1; i >= 0; i-- {
-		b[i] = byte(n)
-		n >>= 8
-	}
-	return b
+	return slices.Concat(draft.Digits(uint64(key), keySize), draft.Digits(uint64(at), draft.PlaceSize))
 }

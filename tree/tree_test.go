@@ -9,6 +9,7 @@ import (
 
 	"cadastre/api"
 	"cadastre/disk"
+	"cadastre/draft"
 	"cadastre/locks"
 	"cadastre/node"
 	"cadastre/pager"
@@ -571,8 +572,8 @@ func TestRoom(t *testing.T) {
 		t.Errorf("%d", n)
 	}
 	c := [][]byte{recordCell(1, short, make([]byte, short))}
-	if 4*cost(c) > node.Room(nil) || 4*(cost(c)+1) <= node.Room(nil) {
-		t.Errorf("%d of %d", cost(c), node.Room(nil))
+	if n := draft.Cost(c); 4*n > node.Room(nil) || 4*(n+1) <= node.Room(nil) {
+		t.Errorf("%d of %d", n, node.Room(nil))
 	}
 }
 

@@ -9,6 +9,7 @@ import (
 	"testing"
 
 	"cadastre/api"
+	"cadastre/draft"
 	"cadastre/node"
 	"cadastre/pager"
 	"cadastre/pages"
@@ -241,7 +242,7 @@ func TestForms(t *testing.T) {
 func (s sketch) twist(n int, key, other int64) {
 	s.t.Helper()
 	b, _ := s.g.Read(n)
-	b = bytes.Replace(b, digits(uint64(key), keySize), digits(uint64(other), keySize), 1)
+	b = bytes.Replace(b, draft.Digits(uint64(key), keySize), draft.Digits(uint64(other), keySize), 1)
 	want(s.t, "Write", s.g.Write(n, b), api.OK)
 }
 
