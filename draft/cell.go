@@ -5,7 +5,6 @@ import (
 
 	"cadastre/api"
 	"cadastre/node"
-	"cadastre/pages"
 )
 
 // A cell holds bytes: 2 bytes tell how many, and behind them they stand themselves, or, if they are many, the page of their
@@ -61,14 +60,14 @@ func IsCell(c []byte) bool {
 func length(c []byte) int { return int(Number(c[:lengthSize])) }
 
 // Read tells the bytes that the cell c holds, and the pages on which they lie, if they are many; ErrForm, if they do not lie there.
-func Read(g *pages.Pages, c []byte) (at []int, data []byte, e api.Errno) {
+func (d *Draft) Read(c []byte) (at []int, data []byte, e api.Errno) {
 	size := length(c)
 	if size <= Short {
 		return nil, c[lengthSize:], api.OK
 	}
 	n := int(Number(c[lengthSize:]))
 next:
-	part, behind, e := readPiece(g, n)
+	part, behind, e := d.readPiece(n)
 	if e != api.OK {
 		return nil, nil, e
 	}
@@ -87,8 +86,8 @@ next:
 }
 
 // readPiece tells the piece on page n, and the page that it tells.
-func readPiece(g *pages.Pages, n int) ([]byte, int, api.Errno) {
-	kind, behind, cells, e := Load(g, n)
+func (d *Draft) readPiece(n int) ([]byte, int, api.Errno) {
+	kind, behind, cells, e := d.Load(n)
 	if e != api.OK {
 		return nil, 0, e
 	}
@@ -96,15 +95,6 @@ func readPiece(g *pages.Pages, n int) ([]byte, int, api.Errno) {
 		return nil, 0, api.ErrForm
 	}
 	return cells[0], behind, api.OK
-}
-
-// Load tells the kind, the next and the cells of page n.
-func Load(g *pages.Pages, n int) (kind, next int, cells [][]byte, e api.Errno) {
-	p, e := g.Read(n)
-	if e != api.OK {
-		return 0, 0, nil, e
-	}
-	return node.Decode(p)
 }
 
 // Cost tells how many bytes of a page the cells take.

@@ -1,5 +1,6 @@
 // Package draft: changes to pages (13) that are known as a whole ahead of the first write, so that nothing has changed beside
-// an error; and the cells by which they hold bytes, a few or many. Trees (14) and indexes (15) are made of it.
+// an error; and the cells by which they hold bytes, a few or many. Trees (14), indexes (15) and trees of boxes (18) are made of
+// it.
 package draft
 
 import (
@@ -13,7 +14,7 @@ import (
 // enough: Alloc may be told ErrLimit, once so many pages are held.
 const enough = api.MaxPages - 42
 
-// Draft is all that is to be done to a file's pages.
+// Draft is all that is to be done to a file's pages. What it reads is as if that were done.
 type Draft struct {
 	g      *pages.Pages
 	spare  []int // held pages on which nothing lies any more
@@ -28,26 +29,22 @@ type write struct {
 	page []byte
 }
 
-// New holds a page, and puts no cells on it.
-func New(g *pages.Pages, kind int) (int, api.Errno) {
-	n, e := g.Alloc()
-	if e != api.OK {
-		return 0, e
+// On tells a draft by which nothing is to be done yet.
+func On(g *pages.Pages) *Draft { return &Draft{g: g} }
+
+// Make does what plan puts into a draft, and tells what plan tells.
+func Make[T any](g *pages.Pages, plan func(d *Draft) T) (T, api.Errno) {
+	var told, none T
+	if e := Do(g, func(d *Draft) { told = plan(d) }); e != api.OK {
+		return none, e
 	}
-	p, e := node.Encode(kind, 0, nil)
-	if e != api.OK {
-		return 0, e
-	}
-	if e := g.Write(n, p); e != api.OK {
-		return 0, e
-	}
-	return n, api.OK
+	return told, api.OK
 }
 
-// Do does what plan puts into a draft. If that lacks pages they are held, and plan is called once more: how many pages there
-// are to take must not change what it does, but where it lies.
+// Do does what plan puts into a draft. If that lacks pages they are held, and plan is called once more: which pages there are to
+// take must not change how many it takes.
 func Do(g *pages.Pages, plan func(d *Draft)) api.Errno {
-	d := &Draft{g: g}
+	d := On(g)
 	plan(d)
 	if d.e == api.OK && d.lack > 0 {
 		fresh, e := allocate(g, d.lack)
@@ -80,11 +77,19 @@ func allocate(g *pages.Pages, many int) ([]int, api.Errno) {
 	return l, api.OK
 }
 
-// Take tells a page to put something on; 0, if there is none to spare.
+// New puts no cells on a page, and tells it.
+func (d *Draft) New(kind, next int) int {
+	n := d.Take()
+	d.Put(n, kind, next, nil)
+	return n
+}
+
+// Take tells a page to put something on. If there is none to spare its number is one that no page has, as long as none is held
+// in its place.
 func (d *Draft) Take() int {
 	if len(d.spare) == 0 {
 		d.lack++
-		return 0
+		return api.MaxPages - 1 + d.lack
 	}
 	n := d.spare[0]
 	d.spare = d.spare[1:]
@@ -98,7 +103,22 @@ func (d *Draft) Give(l ...int) { d.spare = slices.Concat(l, d.spare) }
 func (d *Draft) Put(n, kind, next int, cells [][]byte) {
 	p, e := node.Encode(kind, next, cells)
 	d.Fail(e)
+	d.writes = slices.DeleteFunc(d.writes, func(w write) bool { return w.at == n })
 	d.writes = append(d.writes, write{n, p})
+}
+
+// Load tells the kind, the next and the cells of page n.
+func (d *Draft) Load(n int) (kind, next int, cells [][]byte, e api.Errno) {
+	for _, w := range d.writes {
+		if w.at == n {
+			return node.Decode(w.page)
+		}
+	}
+	p, e := d.g.Read(n)
+	if e != api.OK {
+		return 0, 0, nil, e
+	}
+	return node.Decode(p)
 }
 
 // Fail keeps the first error: with it nothing is done.

@@ -68,13 +68,18 @@ func filled(c, n int) []byte {
 	return b
 }
 
-// New: a page of that kind, without cells; the errors of pages.
+// made tells a new page of that kind and next, without cells.
+func made(g *pages.Pages, kind, next int) (int, api.Errno) {
+	return Make(g, func(d *Draft) int { return d.New(kind, next) })
+}
+
+// Make, New: a page of that kind and next, without cells; the errors of pages, and nothing beside them.
 func TestNew(t *testing.T) {
 	g := fresh(t)
 	for kind := range 5 {
-		n, e := New(g, kind)
+		n, e := made(g, kind, 7*kind)
 		want(t, "New", e, api.OK)
-		if k, next, cells, e := Load(g, n); k != kind || next != 0 || cells != nil || e != api.OK {
+		if k, next, cells, e := On(g).Load(n); k != kind || next != 7*kind || cells != nil || e != api.OK {
 			t.Errorf("%d: %d, %d, %v, %v", kind, k, next, cells, e)
 		}
 	}
@@ -86,10 +91,10 @@ func TestNew(t *testing.T) {
 			break
 		}
 	}
-	if n, e := New(g, 1); n != 0 || e != api.ErrLimit {
+	if n, e := made(g, 1, 0); n != 0 || e != api.ErrLimit {
 		t.Errorf("%d, %v", n, e)
 	}
-	if n, e := New(nil, 1); n != 0 || e != api.ErrForm {
+	if n, e := made(nil, 1, 0); n != 0 || e != api.ErrForm {
 		t.Errorf("%d, %v", n, e)
 	}
 }
@@ -102,7 +107,7 @@ func TestDo(t *testing.T) {
 			for again := range 3 {
 				var given, taken []int
 				for range give {
-					n, e := New(g, 9)
+					n, e := made(g, 9, 0)
 					want(t, "New", e, api.OK)
 					given = append(given, n)
 				}
@@ -124,7 +129,7 @@ func TestDo(t *testing.T) {
 				})
 				want(t, "Do", e, api.OK)
 				for i, n := range taken {
-					if kind, next, cells, e := Load(g, n); kind != 7 || next != i || len(cells) != 1 || cells[0][0] != byte(i) || e != api.OK {
+					if kind, next, cells, e := On(g).Load(n); kind != 7 || next != i || len(cells) != 1 || cells[0][0] != byte(i) || e != api.OK {
 						t.Fatalf("%d, %d, %d: page %d: %d, %d, %v, %v", give, take, again, n, kind, next, cells, e)
 					}
 				}
@@ -147,16 +152,76 @@ func TestTurn(t *testing.T) {
 	d.Give(7)
 	d.Give()
 	got := []int{d.Take(), d.Take(), d.Take(), d.Take(), d.Take()}
-	if !slices.Equal(got, []int{7, 5, 6, 0, 0}) || d.lack != 2 {
+	if !slices.Equal(got, []int{7, 5, 6, api.MaxPages, api.MaxPages + 1}) || d.lack != 2 {
 		t.Errorf("%v, %d", got, d.lack)
 	}
+}
+
+// A draft reads its pages as they will be, those too that are not held yet; what is put on a page last is there.
+func TestAsItWillBe(t *testing.T) {
+	g := fresh(t)
+	n, e := made(g, 1, 0)
+	want(t, "New", e, api.OK)
+	long := filled(3, 3*Piece)
+	plans := 0
+	var first, second, other int
+	var c []byte
+	plan := func(d *Draft) {
+		plans++
+		first, second = d.New(5, 1), d.New(6, 2)
+		d.Put(n, 7, first, [][]byte{{1}})
+		d.Put(first, 8, second, [][]byte{{2}, {3}})
+		d.Put(n, 9, second, [][]byte{{4}})
+		c = d.Store(long)
+		d.Give(second)
+		other = d.New(11, 3)
+		for _, x := range []struct{ at, kind, next, cells int }{{n, 9, second, 1}, {first, 8, second, 2}, {other, 11, 3, 0}} {
+			if kind, next, cells, e := d.Load(x.at); kind != x.kind || next != x.next || len(cells) != x.cells || e != api.OK {
+				t.Errorf("%d: %v: %d, %d, %v, %v", plans, x, kind, next, cells, e)
+			}
+		}
+		if at, data, e := d.Read(c); len(at) != 3 || !bytes.Equal(data, long) || e != api.OK {
+			t.Errorf("%d: %v, %d bytes, %v", plans, at, len(data), e)
+		}
+		if kind, _, _, e := On(g).Load(n); kind != 1 || e != api.OK {
+			t.Errorf("%d: %d, %v", plans, kind, e)
+		}
+	}
+	want(t, "Do", Do(g, plan), api.OK)
+	if plans != 2 || other != second || len(held(t, g)) != 6 {
+		t.Errorf("%d plans, %d, %d, %v", plans, other, second, held(t, g))
+	}
+	for _, x := range []struct{ at, kind, next, cells int }{{n, 9, second, 1}, {first, 8, second, 2}, {other, 11, 3, 0}} {
+		if kind, next, cells, e := On(g).Load(x.at); kind != x.kind || next != x.next || len(cells) != x.cells || e != api.OK {
+			t.Errorf("%v: %d, %d, %v, %v", x, kind, next, cells, e)
+		}
+	}
+	if _, data, e := On(g).Read(c); !bytes.Equal(data, long) || e != api.OK {
+		t.Errorf("%d bytes, %v", len(data), e)
+	}
+}
+
+// What a draft reads is new memory.
+func TestReadsAnew(t *testing.T) {
+	g := fresh(t)
+	want(t, "Do", Do(g, func(d *Draft) {
+		n := d.New(1, 0)
+		d.Put(n, 1, 0, [][]byte{{1, 2}, {3}})
+		for range 2 {
+			_, _, cells, e := d.Load(n)
+			if e != api.OK || !slices.EqualFunc(cells, [][]byte{{1, 2}, {3}}, bytes.Equal) {
+				t.Errorf("%v, %v", cells, e)
+			}
+			clear(cells[0])
+		}
+	}), api.OK)
 }
 
 // Beside an error nothing has changed, not even that the transaction has written: the first one is told.
 func TestFail(t *testing.T) {
 	p, q := two(t)
 	g := pages.New(p)
-	n, e := New(g, 1)
+	n, e := made(g, 1, 0)
 	want(t, "New", e, api.OK)
 	want(t, "Commit", p.Commit(), api.OK)
 	want(t, "Begin", p.Begin(), api.OK)
@@ -211,7 +276,7 @@ func TestEnough(t *testing.T) {
 	want(t, "Do", Do(g, plan(2)), api.OK)
 	want(t, "Do", Do(g, plan(1)), api.ErrLimit)
 	want(t, "Do", Do(g, func(d *Draft) { d.Give(1); d.Put(d.Take(), 5, 0, nil) }), api.OK)
-	if kind, _, _, e := Load(g, 1); kind != 5 || e != api.OK || len(held(t, g)) != api.MaxPages-42 {
+	if kind, _, _, e := On(g).Load(1); kind != 5 || e != api.OK || len(held(t, g)) != api.MaxPages-42 {
 		t.Errorf("%d, %v", kind, e)
 	}
 	want(t, "Do", Do(nil, plan(1)), api.ErrForm)
@@ -227,7 +292,7 @@ func TestStore(t *testing.T) {
 		var c []byte
 		e := Do(g, func(d *Draft) { c = d.Store(filled(n, n)) })
 		want(t, "Do", e, api.OK)
-		at, data, e := Read(g, c)
+		at, data, e := On(g).Read(c)
 		if e != api.OK || !bytes.Equal(data, filled(n, n)) || !IsCell(c) {
 			t.Fatalf("%d: %d bytes, %v", n, len(data), e)
 		}
@@ -239,7 +304,7 @@ func TestStore(t *testing.T) {
 			t.Fatalf("%d: %v, held %v", n, at, held(t, g))
 		}
 		want(t, "Free", Free(g, at), api.OK)
-		if at, data, e := Read(g, c); n > Short && (at != nil || data != nil || e != api.ErrForm) {
+		if at, data, e := On(g).Read(c); n > Short && (at != nil || data != nil || e != api.ErrForm) {
 			t.Fatalf("%d: %v, %d bytes, %v", n, at, len(data), e)
 		}
 	}

@@ -40,7 +40,7 @@ func remove(g *pages.Pages, path []step) api.Errno {
 
 // forget gives up the pages on which the bytes lie that the cell holds.
 func (c change) forget(cell []byte) {
-	at, _, e := draft.Read(c.g, cell)
+	at, _, e := c.Read(cell)
 	c.Fail(e)
 	c.Give(at...)
 }

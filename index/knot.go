@@ -29,7 +29,7 @@ type knot struct {
 
 // load tells the knot on page at; ErrForm, if none lies there. It does not ask whether its keys rise: they may be long.
 func load(g *pages.Pages, at int) (knot, api.Errno) {
-	kind, next, cells, e := draft.Load(g, at)
+	kind, next, cells, e := draft.On(g).Load(at)
 	if e != api.OK {
 		return knot{}, e
 	}
@@ -101,7 +101,7 @@ halve:
 
 // readKey tells the key that the cell c holds, and the pages on which it lies, if it is long.
 func readKey(g *pages.Pages, c []byte) (at []int, k []api.Value, e api.Errno) {
-	at, data, e := draft.Read(g, c)
+	at, data, e := draft.On(g).Read(c)
 	if e != api.OK {
 		return nil, nil, e
 	}

@@ -21,6 +21,30 @@ const (
 	kindRest = draft.KindPiece
 )
 
+// How knots lie, by package rows.
+const (
+	kindLeaf = 1
+	kindFork = 2
+	keySize  = 8
+)
+
+// forkCell tells a fork's cell.
+func forkCell(key int64, at int) []byte {
+	return slices.Concat(draft.Digits(uint64(key), keySize), draft.Digits(uint64(at), 2))
+}
+
+// levels tells how many knots lie on a way down.
+func levels(t *testing.T, g *pages.Pages, root int) int {
+	t.Helper()
+	for n := 1; ; n++ {
+		kind, _, cells, e := draft.On(g).Load(root)
+		if want(t, "Load", e, api.OK); kind == kindLeaf {
+			return n
+		}
+		root = int(draft.Number(cells[len(cells)/2][keySize:]))
+	}
+}
+
 // recordCell tells a leaf's cell: tail is the bytes themselves, or the page of their first piece.
 func recordCell(key int64, length int, tail []byte) []byte {
 	return slices.Concat(draft.Digits(uint64(key), keySize), draft.Digits(uint64(length), 2), tail)

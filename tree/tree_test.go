@@ -584,8 +584,8 @@ func TestDeep(t *testing.T) {
 	for k := range 11000 {
 		m.put(t, g, root, int64(k), filled(k, short))
 	}
-	if path, e := down(g, root, 2000); e != api.OK || len(path) != 4 || len(ownPages(t, g, root)) < 3700 {
-		t.Errorf("%d, %v, %d pages", len(path), e, len(ownPages(t, g, root)))
+	if n := levels(t, g, root); n != 4 || len(ownPages(t, g, root)) < 3700 {
+		t.Errorf("%d levels, %d pages", n, len(ownPages(t, g, root)))
 	}
 	m.wantDump(t, g, root)
 	want(t, "Commit", p.Commit(), api.OK)
@@ -616,8 +616,8 @@ func TestPageCount(t *testing.T) {
 	if l := ownPages(t, g, root); len(l) > 4096*23*2/500+20 {
 		t.Errorf("%d pages", len(l))
 	}
-	if path, e := down(g, root, 2000); e != api.OK || len(path) != 3 {
-		t.Errorf("%d, %v", len(path), e)
+	if n := levels(t, g, root); n != 3 {
+		t.Errorf("%d levels", n)
 	}
 	r := rand.New(rand.NewSource(1))
 	for _, k := range r.Perm(4096)[:4000] {

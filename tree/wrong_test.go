@@ -342,8 +342,8 @@ func TestTurnedBytes(t *testing.T) {
 	}
 	m.put(t, g, root, 50, filled(1, 1600))
 	m.put(t, g, root, 350, filled(2, 700))
-	if path, _ := down(g, root, 50); len(path) != 3 {
-		t.Fatalf("%d levels", len(path))
+	if n := levels(t, g, root); n != 3 {
+		t.Fatalf("%d levels", n)
 	}
 	turned(t, g, p, root, 400)
 }

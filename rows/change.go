@@ -1,4 +1,4 @@
-package tree
+package rows
 
 import (
 	"bytes"
@@ -8,47 +8,56 @@ import (
 	"cadastre/api"
 	"cadastre/draft"
 	"cadastre/node"
-	"cadastre/pages"
 )
 
-// wish is what is to become of a key: it holds data, or it goes.
-type wish struct {
-	key  int64
-	data []byte
-	gone bool
-}
-
 // change is all that is to be done to a tree's pages.
-type change struct {
-	*draft.Draft
-	g *pages.Pages
-}
+type change struct{ *draft.Draft }
 
-// fulfil does what is wished to the leaf at the end of the path, and tells whether the key was there.
-func fulfil(g *pages.Pages, path []step, w wish) (bool, api.Errno) {
-	_, was := path[len(path)-1].find(w.key)
-	if e := draft.Do(g, func(d *draft.Draft) { change{d, g}.plan(path, w) }); e != api.OK {
-		return false, e
+// Put plans that the key of the tree at root holds data, and tells whether it was there.
+func Put(d *draft.Draft, root int, key int64, data []byte) (was bool) {
+	path, e := down(d, root, key)
+	if e == api.OK && len(data) > api.MaxRecord {
+		e = api.ErrLimit
 	}
-	return was, api.OK
-}
-
-// plan puts together what fulfils the wish.
-func (c change) plan(path []step, w wish) {
+	if d.Fail(e); e != api.OK {
+		return false
+	}
+	c := change{d}
+	i, behind := c.forget(path, key)
+	cell := slices.Concat(draft.Digits(uint64(key), keySize), c.Store(data))
 	leaf := path[len(path)-1]
-	i, was := leaf.find(w.key)
-	behind := i
-	if was {
-		at, _, e := record(c.g, leaf.cells[i])
-		c.Fail(e)
-		c.Give(at...)
-		behind++
+	c.settle(path, slices.Concat(leaf.cells[:i], [][]byte{cell}, leaf.cells[behind:]))
+	return i < behind
+}
+
+// Delete plans that the key of the tree at root goes, and tells whether it was there.
+func Delete(d *draft.Draft, root int, key int64) (was bool) {
+	path, e := down(d, root, key)
+	if d.Fail(e); e != api.OK {
+		return false
 	}
-	var cells [][]byte
-	if !w.gone {
-		cells = append(cells, slices.Concat(draft.Digits(uint64(w.key), keySize), c.Store(w.data)))
+	c := change{d}
+	i, behind := c.forget(path, key)
+	if i == behind {
+		return false
 	}
-	c.settle(path, slices.Concat(leaf.cells[:i], cells, leaf.cells[behind:]))
+	leaf := path[len(path)-1]
+	c.settle(path, slices.Concat(leaf.cells[:i], leaf.cells[behind:]))
+	return true
+}
+
+// forget gives up the pages of the key's bytes, and tells where in the path's leaf the key stands and where what is behind it;
+// both are one, if it is not there.
+func (c change) forget(path []step, key int64) (i, behind int) {
+	leaf := path[len(path)-1]
+	i, was := leaf.find(key)
+	if !was {
+		return i, i
+	}
+	at, _, e := c.Read(leaf.bytes(i))
+	c.Fail(e)
+	c.Give(at...)
+	return i, i + 1
 }
 
 // settle gives the last knot of the path these cells, and changes what lies above it where it must.
@@ -110,7 +119,7 @@ func (c change) gather(above step, x knot, cells [][]byte) group {
 
 // neighbour tells the knot on page at, which is to be of that kind.
 func (c change) neighbour(at, kind int) knot {
-	x, e := load(c.g, at)
+	x, e := load(c.Draft, at)
 	if e == api.OK && x.kind != kind {
 		e = api.ErrForm
 	}

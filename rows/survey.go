@@ -1,16 +1,16 @@
-package tree
+package rows
 
 import (
 	"math"
 
 	"cadastre/api"
-	"cadastre/pages"
+	"cadastre/draft"
 )
 
 // survey is all that a tree is.
 type survey struct {
-	g     *pages.Pages
-	seen  []bool // which pages are its own
+	d     *draft.Draft
+	seen  map[int]struct{} // which pages are its own
 	pages []int
 	keys  []int64
 	data  [][]byte
@@ -23,8 +23,8 @@ type branch struct {
 }
 
 // look goes through a whole tree, level by level; ErrForm, if it is none.
-func look(g *pages.Pages, root int) (survey, api.Errno) {
-	s := survey{g: g, seen: make([]bool, api.MaxPages)}
+func look(d *draft.Draft, root int) (survey, api.Errno) {
+	s := survey{d: d, seen: map[int]struct{}{}}
 	level := []branch{{math.MinInt64, root}}
 down:
 	knots, e := s.level(level)
@@ -45,7 +45,7 @@ down:
 func (s *survey) level(level []branch) ([]knot, api.Errno) {
 	var knots []knot
 	for i, b := range level {
-		x, e := load(s.g, b.at)
+		x, e := load(s.d, b.at)
 		if e != api.OK {
 			return nil, e
 		}
@@ -71,10 +71,10 @@ func within(x knot, level []branch) bool {
 
 // count takes page n for the tree's own, and tells whether it was not yet.
 func (s *survey) count(n int) bool {
-	if s.seen[n] {
+	if _, seen := s.seen[n]; seen {
 		return false
 	}
-	s.seen[n] = true
+	s.seen[n] = struct{}{}
 	s.pages = append(s.pages, n)
 	return true
 }
@@ -93,8 +93,8 @@ func branches(forks []knot) []branch {
 // records takes in what the leaves hold.
 func (s *survey) records(leaves []knot) api.Errno {
 	for _, x := range leaves {
-		for _, c := range x.cells {
-			at, data, e := record(s.g, c)
+		for i := range x.cells {
+			at, data, e := s.d.Read(x.bytes(i))
 			if e != api.OK {
 				return e
 			}
@@ -103,7 +103,7 @@ func (s *survey) records(leaves []knot) api.Errno {
 					return api.ErrForm
 				}
 			}
-			s.keys, s.data = append(s.keys, keyOf(c)), append(s.data, data)
+			s.keys, s.data = append(s.keys, x.key(i)), append(s.data, data)
 		}
 	}
 	return api.OK

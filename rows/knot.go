@@ -1,4 +1,4 @@
-package tree
+package rows
 
 import (
 	"cmp"
@@ -7,7 +7,6 @@ import (
 	"cadastre/api"
 	"cadastre/draft"
 	"cadastre/node"
-	"cadastre/pages"
 )
 
 // A tree's pages are nodes (11), here called knots. A leaf's cells are keys with their bytes, a fork's are keys with the pages
@@ -34,8 +33,8 @@ type knot struct {
 }
 
 // load tells the knot on page at; ErrForm, if none lies there.
-func load(g *pages.Pages, at int) (knot, api.Errno) {
-	kind, next, cells, e := draft.Load(g, at)
+func load(d *draft.Draft, at int) (knot, api.Errno) {
+	kind, next, cells, e := d.Load(at)
 	if e != api.OK {
 		return knot{}, e
 	}
@@ -67,6 +66,9 @@ func (x knot) rises() bool {
 }
 
 func (x knot) key(i int) int64 { return keyOf(x.cells[i]) }
+
+// bytes tells the part of a leaf's cell that holds the key's bytes.
+func (x knot) bytes(i int) []byte { return x.cells[i][keySize:] }
 
 // find tells where the key stands, or would, and whether it is there.
 func (x knot) find(key int64) (int, bool) {
@@ -101,11 +103,6 @@ func keyOf(cell []byte) int64 { return int64(draft.Number(cell[:keySize])) }
 
 // isRecord asks whether c is a leaf's cell.
 func isRecord(c []byte) bool { return len(c) >= keySize && draft.IsCell(c[keySize:]) }
-
-// record tells the bytes of a leaf's cell c, and the pages on which they lie, if they are many.
-func record(g *pages.Pages, c []byte) (at []int, data []byte, e api.Errno) {
-	return draft.Read(g, c[keySize:])
-}
 
 // forkCell tells a fork's cell.
 func forkCell(key int64, at int) []byte {
