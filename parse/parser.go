@@ -4,6 +4,7 @@ import (
 	"strings"
 
 	"cadastre/api"
+	"cadastre/words"
 )
 
 // parser is a row of tokens on its way to a statement: what is left of it, how many parentheses of expressions are open, and the most that were.
@@ -35,23 +36,12 @@ func stands(t api.Token, sign string) bool {
 }
 
 func (p *parser) name(s *string) bool {
-	if len(p.rest) == 0 || p.rest[0].Kind != api.TokWord || isKeyWord(p.rest[0].Text) {
+	if len(p.rest) == 0 || p.rest[0].Kind != api.TokWord || !words.IsName(p.rest[0].Text) {
 		return false
 	}
 	*s = p.rest[0].Text
 	p.rest = p.rest[1:]
 	return true
-}
-
-func isKeyWord(s string) bool {
-	switch s {
-	case "any", "and", "begin", "blob", "by", "commit", "count", "create", "delete", "desc",
-		"drop", "from", "index", "insert", "integer", "into", "is", "length", "max", "min",
-		"not", "null", "on", "or", "order", "rollback", "rtree", "select", "set", "sum",
-		"table", "text", "typeof", "unique", "update", "using", "values", "virtual", "where":
-		return true
-	}
-	return false
 }
 
 // list reads at least one item, with commas between them.
